@@ -100,12 +100,49 @@ func TestMakeDictionary(t *testing.T) {
 	}
 	more := append(slices.Clone(twelveWords), "zz")
 	for _, words := range [][]string{
-		nil, {""}, {"b", ""}, {"b", "A"}, {"b", "a,c"}, {"b", "a", "b"}, {"a", "a"}, {"b", "aaaaaaaaaaa"}, {"2"}, {"a", "é"},
+		nil, {}, {""}, {"b", ""}, {"b", "A"}, {"b", "a,c"}, {"b", "aaaaaaaaaaa"}, {"2"}, {"a", "é"},
+		{"", ""}, {"a", "", "a"}, {"a", "A", "a"}, {"A", "A"}, {"a", "2", "2"}, {"aaaaaaaaaaa", "aaaaaaaaaaa"},
 		more, append(slices.Clone(more), "A"), append(slices.Clone(twelveWords), "a"), slices.Repeat([]string{"a"}, 13), slices.Repeat([]string{"a"}, 10000),
 	} {
 		if got, ok := impl.MakeDictionary(words); len(got) != 0 || ok {
 			t.Errorf("MakeDictionary of %d words, %.60q: %q %v", len(words), words, got, ok)
 		}
+	}
+}
+
+// TestMakeDictionaryOfRepeatedWords gives words again, up to the limit of all that are given: next to each other, and behind all.
+func TestMakeDictionaryOfRepeatedWords(t *testing.T) {
+	for _, list := range dictionaries {
+		for times := 2; times*len(list) <= impl.MaxDictionary; times++ {
+			holdRepeated(t, slices.Repeat(list, times), list)
+			backward := slices.Repeat(list, times)
+			slices.Sort(backward)
+			slices.Reverse(backward)
+			holdRepeated(t, backward, list)
+		}
+		for _, word := range list {
+			for at := range list {
+				if len(list) < impl.MaxDictionary {
+					holdRepeated(t, slices.Insert(slices.Clone(list), at, word), list)
+				}
+			}
+		}
+	}
+	holdRepeated(t, []string{"cat", "act", "cat"}, []string{"act", "cat"})
+	holdRepeated(t, append(slices.Clone(twelveWords[:11]), "a"), twelveWords[:11])
+	holdRepeated(t, slices.Repeat([]string{"in"}, impl.MaxDictionary), []string{"in"})
+}
+
+func holdRepeated(t *testing.T, words []string, list []string) {
+	t.Helper()
+	room := append(slices.Clone(words), "room", "more")
+	before := slices.Clone(room)
+	got, ok := impl.MakeDictionary(room[:len(words)])
+	if !slices.Equal(got, list) || !ok {
+		t.Errorf("MakeDictionary %q: %q %v", words, got, ok)
+	}
+	if !slices.Equal(room, before) {
+		t.Errorf("MakeDictionary changed %q to %q", before, room)
 	}
 }
 
