@@ -6,7 +6,6 @@ import (
 	"slices"
 	"strings"
 	"testing"
-	"time"
 
 	"loop.example/g01350/impl"
 )
@@ -325,14 +324,7 @@ func TestNobodySendsOn(t *testing.T) {
 		impl.NextRight(sameWeights(11, 1, 12), "099999999999X")
 		impl.NextRight(sameWeights(11, 1, 12), "999999999999X")
 	}
-	// One that has just ended may still be counted for a moment.
-	for range 100 {
-		if runtime.NumGoroutine() <= before {
-			return
-		}
-		time.Sleep(10 * time.Millisecond)
-	}
-	t.Errorf("%d goroutines, and %d before", runtime.NumGoroutine(), before)
+	holdNoMoreRun(t, before)
 }
 
 // TestRepairsRepeat calls the same again, as no result may depend on who comes first.

@@ -366,6 +366,12 @@ func TestNobodyChoosesOn(t *testing.T) {
 		impl.CountPinsLeft([]impl.Guess{guessed("00", 0, 0)})
 		impl.WorstLeft([]impl.Guess{guessed("00", 0, 0)}, "12")
 	}
+	holdNoMoreRun(t, before)
+}
+
+// holdNoMoreRun holds that no more goroutines run than before.
+func holdNoMoreRun(t *testing.T, before int) {
+	t.Helper()
 	// One that has just ended may still be counted for a moment.
 	for range 100 {
 		if runtime.NumGoroutine() <= before {
